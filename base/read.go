@@ -2,7 +2,7 @@ package base
 
 import (
 	"remembrancer/api"
-	"remembrancer/num"
+	"remembrancer/reader"
 )
 
 // What stands behind a cell's key: whether a value follows.
@@ -32,97 +32,61 @@ func read(texts [][]byte) (at int, cells []api.Cell, ok bool) {
 
 // readHead: cells is how many there are behind it, which it must tell.
 func readHead(text []byte, cells int) (at int, ok bool) {
-	if len(text) == 0 || text[0] != mark {
-		return 0, false
-	}
-	r := reader{rest: text[1:]}
-	n := r.number()
-	count := r.number()
-	if !r.done() || n > api.MaxSeq || count != uint64(cells) {
+	r := reader.New(text)
+	r.Mark(mark)
+	n := r.Number()
+	count := r.Number()
+	if !r.Done() || n > api.MaxSeq || count != uint64(cells) {
 		return 0, false
 	}
 	return int(n), true
 }
 
 func readCell(text []byte) (api.Cell, bool) {
-	r := reader{rest: text}
+	r := reader.New(text)
 	var c api.Cell
-	c.Key = r.key()
-	c.Has, c.Value = r.value()
-	c.List = r.list()
-	c.Dict = r.fields()
-	return c, r.done()
+	c.Key = readKey(r)
+	c.Has, c.Value = readValue(r)
+	c.List = readList(r)
+	c.Dict = readFields(r)
+	return c, r.Done()
 }
 
-// reader takes one number behind the other, until one of them is none: from then on it answers 0.
-type reader struct {
-	rest []byte
-	bad  bool
-}
-
-// done tells whether all was right, and nothing is left over.
-func (r *reader) done() bool {
-	return !r.bad && len(r.rest) == 0
-}
-
-// key answers a number that 63 bits don't hold as one below 0, which no key that may be has.
-func (r *reader) key() api.Key {
-	group := r.number()
-	ns := r.number()
-	id := r.number()
+// readKey answers a number that 63 bits don't hold as one below 0, which no key that may be has.
+func readKey(r *reader.Reader) api.Key {
+	group := r.Number()
+	ns := r.Number()
+	id := r.Number()
 	return api.Key{Group: int(group), Ns: int(ns), Id: int(id)}
 }
 
-func (r *reader) value() (has bool, n int64) {
-	switch r.number() {
+func readValue(r *reader.Reader) (has bool, n int64) {
+	switch r.Number() {
 	case without:
 		return false, 0
 	case with:
-		return true, r.signed()
+		return true, r.Int()
 	}
-	r.bad = true
+	r.Fail()
 	return false, 0
 }
 
-// list stops where the bytes do, however many numbers are told of.
-func (r *reader) list() []int64 {
+// readList stops where the bytes do, however many numbers are told of.
+func readList(r *reader.Reader) []int64 {
 	var out []int64
-	for n := r.number(); n > 0 && !r.bad; n-- {
-		out = append(out, r.signed())
+	for n := r.Number(); n > 0 && r.Good(); n-- {
+		out = append(out, r.Int())
 	}
 	return out
 }
 
-// fields: as list. An F that 63 bits don't hold is answered as one below 0, which no field is.
-func (r *reader) fields() []api.Field {
+// readFields: as readList. An F that 63 bits don't hold is answered as one below 0, which no field is.
+func readFields(r *reader.Reader) []api.Field {
 	var out []api.Field
-	for n := r.number(); n > 0 && !r.bad; n-- {
-		f := r.number()
-		v := r.signed()
+	for n := r.Number(); n > 0 && r.Good(); n-- {
+		f := r.Number()
+		v := r.Int()
 		out = append(out, api.Field{F: int64(f), V: v})
 	}
 	return out
-}
-
-func (r *reader) number() uint64 {
-	if r.bad {
-		return 0
-	}
-	n, took, e := num.Get(r.rest)
-	r.pass(took, e)
-	return n
-}
-
-func (r *reader) signed() int64 {
-	if r.bad {
-		return 0
-	}
-	n, took, e := num.GetInt(r.rest)
-	r.pass(took, e)
-	return n
-}
-
-func (r *reader) pass(took int, e api.Errno) {
-	r.rest = r.rest[took:]
-	r.bad = e != api.OK
 }
